@@ -26,9 +26,12 @@ func Sum(b string) int { return sumFrom(sumStart, b) }
 // Leaf of data.
 func Leaf(data string) int { return sumFrom(Sum(leafMark), data) }
 
+// LeafBytes of data: what a Leaf is the Sum of.
+func LeafBytes(data string) string { return leafMark + data }
+
 // NodeBytes of two sums.
 func NodeBytes(a, b int) (string, error) {
-	if !isSum(a) || !isSum(b) {
+	if !IsSum(a) || !IsSum(b) {
 		return "", api.ErrRange
 	}
 	out := []byte{nodeMark}
@@ -48,7 +51,7 @@ func Node(a, b int) (int, error) {
 
 // Print a sum.
 func Print(n int) (string, error) {
-	if !isSum(n) {
+	if !IsSum(n) {
 		return "", api.ErrRange
 	}
 	var out [printWide]byte
@@ -72,7 +75,7 @@ func Parse(text string) (int, error) {
 		}
 		n = n*16 + d
 	}
-	if !isSum(n) {
+	if !IsSum(n) {
 		return 0, api.ErrRange
 	}
 	return n, nil
@@ -86,7 +89,8 @@ func sumFrom(n int, b string) int {
 	return n
 }
 
-func isSum(n int) bool { return 0 <= n && n < api.Prime }
+// IsSum tells whether a number may be a sum.
+func IsSum(n int) bool { return 0 <= n && n < api.Prime }
 
 func appendSum(out []byte, n int) []byte {
 	return append(out, byte(n>>24), byte(n>>16), byte(n>>8), byte(n))

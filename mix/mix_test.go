@@ -279,3 +279,22 @@ func TestParseOfOtherForms(t *testing.T) {
 		wantParseError(t, text, api.ErrSyntax)
 	}
 }
+
+// M1: what other layers lean on: the bytes that a Leaf is the Sum of, and which numbers may be sums.
+func TestLeafBytesAndIsSum(t *testing.T) {
+	for _, text := range someTexts() {
+		if got := mix.LeafBytes(text); got != "\x00"+text || mix.Sum(got) != mix.Leaf(text) {
+			t.Errorf("LeafBytes(%q) = %q", text, got)
+		}
+	}
+	for _, n := range goodSums {
+		if !mix.IsSum(n) {
+			t.Errorf("%d is told as no sum", n)
+		}
+	}
+	for _, n := range badSums {
+		if mix.IsSum(n) {
+			t.Errorf("%d is told as a sum", n)
+		}
+	}
+}
