@@ -1015,7 +1015,7 @@ func TestManySteps(t *testing.T) {
 	}
 }
 
-// W1, W2: all there are of five steps, of few kinds, at limits of 1, 2 and 3.
+// W1, W2: all there are of five steps, of few kinds, each at a limit of 1, 2 or 3.
 func TestEveryShortWay(t *testing.T) {
 	kinds := []step{
 		put(pair("a", "1"), pair("b", "")), put(gone("a")), put(), put(pair("c", ""), gone("")), sync,
