@@ -937,3 +937,21 @@ func TestByTurns(t *testing.T) {
 		}
 	}
 }
+
+// V1's numbers: in decimal of at most four digits, without a needless 0.
+func TestNumber(t *testing.T) {
+	for n := range 12_000 {
+		want, wantOK := n, n < 10_000
+		if !wantOK {
+			want = 0
+		}
+		if got, ok := serve.Number(strconv.Itoa(n)); got != want || ok != wantOK {
+			t.Errorf("%d: %d, %v", n, got, ok)
+		}
+	}
+	for _, word := range []string{"", " ", "00", "01", "007", "0000", "0123", "+1", "-1", "-0", "+0", "-", "+", "1 ", " 1", "1a", "a", "1.0", "1e2", "0x1", "1_0", "1\n", "1\x00", "١", "１", "10000", "00001", "99999999999999999999", "18446744073709551617"} {
+		if got, ok := serve.Number(word); got != 0 || ok {
+			t.Errorf("%q: %d, %v", word, got, ok)
+		}
+	}
+}
